@@ -1,4 +1,4 @@
-package hand
+package paths
 
 import "slices"
 
