@@ -4,6 +4,7 @@ import (
 	"slices"
 
 	"theorbo/api"
+	"theorbo/ints"
 	"theorbo/sound"
 )
 
@@ -22,7 +23,7 @@ func CheckChords(l []api.Chord) api.Errno {
 
 func validChord(c api.Chord) bool {
 	for i, pl := range c.Down {
-		if !within(pl.Course, 1, api.MaxCourses) || !within(pl.Fret, 1, api.MaxFrets) {
+		if !ints.Within(pl.Course, 1, api.MaxCourses) || !ints.Within(pl.Fret, 1, api.MaxFrets) {
 			return false
 		}
 		if i > 0 && pl.Course <= c.Down[i-1].Course {
@@ -35,7 +36,7 @@ func validChord(c api.Chord) bool {
 		}
 	}
 	for i, course := range c.Open {
-		if i > 0 && course <= c.Open[i-1] || !within(course, 1, api.MaxCourses) || fretOf(c, course) > 0 {
+		if i > 0 && course <= c.Open[i-1] || !ints.Within(course, 1, api.MaxCourses) || fretOf(c, course) > 0 {
 			return false
 		}
 	}

@@ -5,15 +5,16 @@ import (
 	"slices"
 
 	"theorbo/api"
+	"theorbo/ints"
 )
 
 // fits reports whether a grip fits a valid chord.
 func fits(h api.Hand, c api.Chord, g api.Grip) bool {
-	if !within(g.Pos, 1, h.Top) || len(g.Fingers) != len(c.Down) {
+	if !ints.Within(g.Pos, 1, h.Top) || len(g.Fingers) != len(c.Down) {
 		return false
 	}
 	for j, finger := range g.Fingers {
-		if !within(finger, 1, len(h.Low)) || !reaches(h, g.Pos, finger, c.Down[j].Fret) {
+		if !ints.Within(finger, 1, len(h.Low)) || !reaches(h, g.Pos, finger, c.Down[j].Fret) {
 			return false
 		}
 		for i, other := range g.Fingers[:j] {
@@ -27,7 +28,7 @@ func fits(h api.Hand, c api.Chord, g api.Grip) bool {
 
 // reaches reports whether a finger stops a fret at a position.
 func reaches(h api.Hand, pos, finger, fret int) bool {
-	return within(fret, pos+h.Low[finger-1], pos+h.High[finger-1])
+	return ints.Within(fret, pos+h.Low[finger-1], pos+h.High[finger-1])
 }
 
 // together reports whether in one grip the place i of a chord may have one finger and the place j, which is on a greater course, another one or the same.
@@ -50,7 +51,7 @@ func coverable(c api.Chord, i, j int) bool {
 		}
 	}
 	for _, course := range c.Open {
-		if within(course, c.Down[i].Course, c.Down[j].Course) {
+		if ints.Within(course, c.Down[i].Course, c.Down[j].Course) {
 			return false
 		}
 	}

@@ -5,6 +5,7 @@ import (
 	"slices"
 
 	"theorbo/api"
+	"theorbo/ints"
 	"theorbo/paths"
 )
 
@@ -62,7 +63,7 @@ func List(h api.Hand, l []api.Chord, most int) ([]api.Fingering, api.Errno) {
 	if e != api.OK {
 		return nil, e
 	}
-	if !within(most, 1, api.MaxList) {
+	if !ints.Within(most, 1, api.MaxList) {
 		return nil, api.ErrArg
 	}
 	finder := newLister(p)
@@ -95,7 +96,7 @@ func Through(h api.Hand, l []api.Chord, i int, g api.Grip) (api.Fingering, api.E
 	if e != api.OK {
 		return api.Fingering{}, e
 	}
-	if !within(i, 0, len(l)-1) {
+	if !ints.Within(i, 0, len(l)-1) {
 		return api.Fingering{}, api.ErrArg
 	}
 	if !fits(h, l[i], g) {

@@ -4,6 +4,7 @@ import (
 	"math/bits"
 
 	"theorbo/api"
+	"theorbo/ints"
 )
 
 // courses is a set of courses: the bit n stands for the course n.
@@ -49,18 +50,14 @@ func gripOf(h api.Hand, c api.Chord, g api.Grip) grip {
 		if t.courses.count() > 1 {
 			looked.own += h.Bar
 		}
-		looked.own += h.Stretch * distance(t.fret, g.Pos+i)
+		looked.own += h.Stretch * ints.Distance(t.fret, g.Pos+i)
 	}
 	return looked
 }
 
-func distance(a, b int) int {
-	return max(a, b) - min(a, b)
-}
-
 // step returns the cost of the step from a grip to one of the next chord, and whether there is one. The fingers on the courses held stay.
 func step(h *api.Hand, from, to *grip, held courses) (cost int, possible bool) {
-	moved := distance(from.Pos, to.Pos)
+	moved := ints.Distance(from.Pos, to.Pos)
 	down := len(from.Fingers) > 0 && len(to.Fingers) > 0
 	if down && moved > h.Jump {
 		return 0, false

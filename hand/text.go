@@ -6,6 +6,7 @@ import (
 	"strings"
 
 	"theorbo/api"
+	"theorbo/ints"
 )
 
 // Write returns grips as text.
@@ -28,10 +29,10 @@ func Write(l []api.Grip) (string, api.Errno) {
 }
 
 func writable(g api.Grip) bool {
-	if !within(g.Pos, 1, api.MaxFrets) || len(g.Fingers) > api.MaxCourses {
+	if !ints.Within(g.Pos, 1, api.MaxFrets) || len(g.Fingers) > api.MaxCourses {
 		return false
 	}
-	return !slices.ContainsFunc(g.Fingers, func(finger int) bool { return !within(finger, 1, api.MaxFingers) })
+	return !slices.ContainsFunc(g.Fingers, func(finger int) bool { return !ints.Within(finger, 1, api.MaxFingers) })
 }
 
 // Read is the inverse of Write.

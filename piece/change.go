@@ -4,18 +4,10 @@ import (
 	"slices"
 
 	"theorbo/api"
+	"theorbo/lists"
 )
 
 const mostAugmented = lastValue - 1
-
-// changed returns a new list of what change makes of each element.
-func changed[From, To any](list []From, change func(From) To) []To {
-	result := make([]To, len(list))
-	for i, x := range list {
-		result[i] = change(x)
-	}
-	return result
-}
 
 func cloneInstrument(in api.Instrument) api.Instrument {
 	return api.Instrument{Courses: slices.Clone(in.Courses), Steps: slices.Clone(in.Steps)}
@@ -68,7 +60,7 @@ func Bare(p api.Piece) (api.Piece, api.Errno) {
 		return api.Piece{}, e
 	}
 	return rewrite(p, func(t timed) api.Event {
-		t.event.Stops = changed(t.event.Stops, func(st api.Stop) api.Stop {
+		t.event.Stops = lists.Changed(t.event.Stops, func(st api.Stop) api.Stop {
 			return api.Stop{Course: st.Course, Fret: st.Fret}
 		})
 		return t.event
@@ -111,7 +103,7 @@ func Cut(p api.Piece, from, to int) (api.Piece, api.Errno) {
 			t.event.Sign = t.sign
 			t.event.Tie = false
 		}
-		t.event.Stops = changed(t.event.Stops, func(st api.Stop) api.Stop {
+		t.event.Stops = lists.Changed(t.event.Stops, func(st api.Stop) api.Stop {
 			st.Hold = min(st.Hold, to-1-t.number)
 			return st
 		})

@@ -5,6 +5,7 @@ import (
 
 	"theorbo/api"
 	"theorbo/instrument"
+	"theorbo/lists"
 )
 
 // Append returns two pieces one after the other.
@@ -23,7 +24,7 @@ func Append(a, b api.Piece) (api.Piece, api.Errno) {
 	}
 	return api.Piece{
 		Instrument: cloneInstrument(a.Instrument),
-		Events:     changed(slices.Concat(a.Events, b.Events), cloneEvent),
+		Events:     lists.Changed(slices.Concat(a.Events, b.Events), cloneEvent),
 	}, api.OK
 }
 
@@ -107,7 +108,7 @@ func moveHolds(before, after []api.Event, became []int) {
 		if len(ev.Stops) == 0 {
 			continue
 		}
-		after[became[i]].Stops = changed(ev.Stops, func(st api.Stop) api.Stop {
+		after[became[i]].Stops = lists.Changed(ev.Stops, func(st api.Stop) api.Stop {
 			st.Hold = became[i+st.Hold] - became[i]
 			return st
 		})

@@ -4,6 +4,7 @@ import (
 	"iter"
 
 	"theorbo/api"
+	"theorbo/ints"
 	"theorbo/paths"
 )
 
@@ -85,7 +86,7 @@ func List(l api.Limits, notes []api.Note, most int) ([]api.Voicing, api.Errno) {
 	if e := check(l, notes); e != api.OK {
 		return nil, e
 	}
-	if !within(most, 1, api.MaxList) {
+	if !ints.Within(most, 1, api.MaxList) {
 		return nil, api.ErrArg
 	}
 	s := newSearch(l, notes)

@@ -5,6 +5,7 @@ import (
 	"slices"
 
 	"theorbo/api"
+	"theorbo/ints"
 )
 
 // How two voices move from one meeting to the next.
@@ -125,5 +126,5 @@ func parallels(meetings []api.Meeting) []api.Meeting {
 
 // class returns the interval of a meeting, without its direction and without octaves.
 func class(m api.Meeting) int {
-	return distance(m.Interval, 0) % octave
+	return ints.Distance(m.Interval, 0) % octave
 }

@@ -5,6 +5,7 @@ import (
 	"slices"
 
 	"theorbo/api"
+	"theorbo/ints"
 )
 
 // Parts returns the voices of an assignment as parts.
@@ -12,7 +13,7 @@ func Parts(notes []api.Note, voices []int, n int) ([][]api.Tone, api.Errno) {
 	if e := CheckNotes(notes); e != api.OK {
 		return nil, e
 	}
-	if len(voices) != len(notes) || !within(n, 1, api.MaxVoices) {
+	if len(voices) != len(notes) || !ints.Within(n, 1, api.MaxVoices) {
 		return nil, api.ErrArg
 	}
 	if !apart(notes, voices, n) {
@@ -33,7 +34,7 @@ func Parts(notes []api.Note, voices []int, n int) ([][]api.Tone, api.Errno) {
 // apart reports whether all numbers are from 1 to n, and those of the notes of one event different.
 func apart(notes []api.Note, voices []int, n int) bool {
 	for i, voice := range voices {
-		if !within(voice, 1, n) {
+		if !ints.Within(voice, 1, n) {
 			return false
 		}
 		for j := i - 1; j >= 0 && notes[j].Event == notes[i].Event; j-- {

@@ -4,6 +4,7 @@ import (
 	"iter"
 
 	"theorbo/api"
+	"theorbo/ints"
 )
 
 // crossingCost is the cost of a crossing: more than all motion, of which the cost of a semitone is 1.
@@ -140,18 +141,14 @@ func (s *search) moves(number int, before situation) iter.Seq[move] {
 // change returns how far a voice moves from its last note to another one, and whether it may have this note.
 func (s *search) change(last int16, note, voice int) (motion int, possible bool) {
 	pitch := s.notes[note].Pitch
-	if !within(pitch, s.limits.Low[voice], s.limits.High[voice]) {
+	if !ints.Within(pitch, s.limits.Low[voice], s.limits.High[voice]) {
 		return 0, false
 	}
 	if last == none {
 		return 0, true
 	}
-	motion = distance(pitch, s.notes[last-1].Pitch)
+	motion = ints.Distance(pitch, s.notes[last-1].Pitch)
 	return motion, motion <= s.limits.Leap
-}
-
-func distance(a, b int) int {
-	return max(a, b) - min(a, b)
 }
 
 // move returns the move behind which the voices have these last notes, unless there are too many crossings.

@@ -2,6 +2,7 @@ package voice
 
 import (
 	"theorbo/api"
+	"theorbo/ints"
 	"theorbo/piece"
 )
 
@@ -37,7 +38,7 @@ func Set(part []api.Tone, end int) ([]api.Written, api.Errno) {
 	if len(part) > 0 {
 		last = part[len(part)-1].To
 	}
-	if !within(end, last, api.MaxTime) {
+	if !ints.Within(end, last, api.MaxTime) {
 		return nil, api.ErrArg
 	}
 	var s scribe
@@ -78,7 +79,7 @@ func Unset(l []api.Written) (part []api.Tone, end int, e api.Errno) {
 func checkWritten(l []api.Written, number int) api.Errno {
 	w := l[number]
 	switch {
-	case !within(w.Pitch, rest, api.MaxPitch):
+	case !ints.Within(w.Pitch, rest, api.MaxPitch):
 		return api.ErrPart
 	case piece.Ticks(w.Sign) == 0:
 		return api.ErrTime

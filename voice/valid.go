@@ -4,6 +4,7 @@ import (
 	"slices"
 
 	"theorbo/api"
+	"theorbo/ints"
 )
 
 // Valid returns the crossings and the motion of an assignment, or the first note at which it is not valid.
@@ -33,7 +34,7 @@ func (s *search) given(number int, before situation, voices []int) (m move, at i
 	ev := s.events[number]
 	last, motion := before, 0
 	for note := ev.first; note < ev.behind; note++ {
-		if !within(voices[note], 1, len(s.limits.Low)) {
+		if !ints.Within(voices[note], 1, len(s.limits.Low)) {
 			return move{}, note, api.ErrVoice
 		}
 		voice := voices[note] - 1
