@@ -4,6 +4,8 @@ package paths
 import (
 	"cmp"
 	"iter"
+
+	"theorbo/lists"
 )
 
 // Step is a step from a node: what it is, the node of the next layer to which it leads, and the cost of the cheapest path that begins with it and goes on to the last layer.
@@ -29,7 +31,7 @@ type path[S any] struct {
 // branch has the paths behind a node: the first ones, as far as they have been asked for, and for each step the first of the others.
 type branch[S any] struct {
 	found []path[S]
-	open  queue[path[S]]
+	open  lists.Shelf[path[S]]
 }
 
 // New returns a finder for a graph with the layers from 0 to last. For each node before the last layer steps goes through its steps, in order, as far as a path goes on behind them.
@@ -60,7 +62,7 @@ func (f *Finder[S]) behind(layer, node, rank int) (path[S], bool) {
 	b := f.branch(layer, node)
 	for len(b.found) <= rank {
 		f.follow(b, layer)
-		first, ok := b.open.take()
+		first, ok := b.open.TakeFirst()
 		if !ok {
 			return path[S]{}, false
 		}
@@ -75,11 +77,11 @@ func (f *Finder[S]) branch(layer, node int) *branch[S] {
 	if b := f.branches[key]; b != nil {
 		return b
 	}
-	b := &branch[S]{open: queue[path[S]]{compare: comparePaths[S]}}
+	b := &branch[S]{open: lists.NewShelf(comparePaths[S])}
 	f.branches[key] = b
 	number := 0
 	for s := range f.steps(layer, node) {
-		b.open.put(path[S]{cost: s.Least, number: number, step: s})
+		b.open.Put(path[S]{cost: s.Least, number: number, step: s})
 		number++
 	}
 	return b
@@ -101,6 +103,6 @@ func (f *Finder[S]) follow(b *branch[S], layer int) {
 	if ok {
 		p.cost += next.cost - this.cost
 		p.rank++
-		b.open.put(p)
+		b.open.Put(p)
 	}
 }

@@ -1,11 +1,11 @@
 package voice
 
 import (
-	"cmp"
 	"slices"
 
 	"theorbo/api"
 	"theorbo/ints"
+	"theorbo/tones"
 )
 
 // Parts returns the voices of an assignment as parts.
@@ -52,9 +52,7 @@ func Sounds(parts [][]api.Tone) ([]api.Tone, api.Errno) {
 		return nil, e
 	}
 	all := slices.Concat(parts...)
-	slices.SortFunc(all, func(a, b api.Tone) int {
-		return cmp.Or(cmp.Compare(a.From, b.From), cmp.Compare(a.Pitch, b.Pitch), cmp.Compare(a.To, b.To))
-	})
+	slices.SortFunc(all, tones.Compare)
 	return all, api.OK
 }
 
